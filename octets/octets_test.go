@@ -1,32 +1,20 @@
 package octets_test
 
 import (
-	"errors"
 	"math"
 	"strings"
 	"testing"
 
 	"colloquy/api"
+	"colloquy/faults"
 	"colloquy/octets"
 )
 
 // wantFault asks for a *api.Fault of that code and place.
 func wantFault(t *testing.T, what string, err error, code api.Errno, at int) {
 	t.Helper()
-	if err == nil {
-		t.Errorf("%s: no fault, but %v at %d is asked for", what, code, at)
-		return
-	}
-	f, is := err.(*api.Fault)
-	if !is || f == nil {
-		t.Errorf("%s: %#v is no fault", what, err)
-		return
-	}
-	if f.Code != code || f.At != at {
-		t.Errorf("%s: %v at %d, but %v at %d is asked for", what, f.Code, f.At, code, at)
-	}
-	if !errors.Is(err, code) {
-		t.Errorf("%s: %v is not found in the fault", what, code)
+	if wrong := faults.Unlike(err, code, at); wrong != "" {
+		t.Errorf("%s: %s", what, wrong)
 	}
 }
 
