@@ -2,12 +2,15 @@ package graph_test
 
 import (
 	"math"
-	"reflect"
 	"testing"
 
 	"colloquy/api"
 	"colloquy/graph"
+	"colloquy/tables"
 )
+
+// How tables are laid, and held against each other.
+var alias, deep, same, oddNumbers = tables.Alias, tables.Deep, tables.Same, tables.OddNumbers
 
 // to are edges to these nodes, which shift nothing.
 func to(nodes ...int) []api.Edge {
@@ -20,9 +23,6 @@ func to(nodes ...int) []api.Edge {
 
 // far is the edge to a node with a shift, alone.
 func far(node, shift int) []api.Edge { return []api.Edge{{To: node, Shift: shift}} }
-
-// alias is an Alias of a node, with a shift.
-func alias(node, shift int) api.Node { return api.Node{Kind: api.Alias, Next: far(node, shift)} }
 
 // ofWord is a Send or a Recv of a word, which goes on to a node.
 func ofWord(kind, node int) api.Node { return api.Node{Kind: kind, Next: to(node)} }
@@ -50,18 +50,6 @@ func acts(kind int) bool {
 
 // ends are so many Ends.
 func ends(count int) []api.Node { return make([]api.Node, count) }
-
-// deep is a copy of a table that shares nothing with it.
-func deep(nodes []api.Node) []api.Node {
-	l := append([]api.Node(nil), nodes...)
-	for i := range l {
-		l[i].Next = append([]api.Edge(nil), l[i].Next...)
-	}
-	return l
-}
-
-// same tells whether two tables are the same; lists that are nil are like those without elements.
-func same(a, b []api.Node) bool { return reflect.DeepEqual(deep(a), deep(b)) }
 
 func wantCheck(t *testing.T, what string, nodes []api.Node, node int, e api.Errno) {
 	t.Helper()
@@ -91,11 +79,6 @@ func wantResolve(t *testing.T, what string, nodes []api.Node, from, want api.Typ
 
 // nowhere is what a type resolves to that comes to none.
 var nowhere = api.Type{Node: -1}
-
-// oddNumbers are none of any table, nor any number that may be.
-func oddNumbers() []int {
-	return []int{-1, -2, -64, math.MinInt32, math.MinInt + 1, math.MinInt, math.MaxInt32, math.MaxInt32 + 1, 1 << 32, math.MaxInt - 1, math.MaxInt}
-}
 
 // The chapter's examples
 
@@ -668,19 +651,9 @@ func TestAllSmallTables(t *testing.T) {
 			pool = append(pool, ofWord(api.Send, goal), alias(goal, 1), ofEnd(api.Recv, goal, 2, 0), labels(api.Branch, 2))
 			pool[len(pool)-1].Next[1] = api.Edge{To: goal, Shift: 3}
 		}
-		l := ends(n)
-		var lay func(at int)
-		lay = func(at int) {
-			if at == n {
-				found[wantAsPlain(t, l)]++
-				return
-			}
-			for _, node := range pool {
-				l[at] = node
-				lay(at + 1)
-			}
+		for l := range tables.All(n, pool) {
+			found[wantAsPlain(t, l)]++
 		}
-		lay(0)
 	}
 	for _, e := range []api.Errno{api.OK, api.ErrKind, api.ErrOpen, api.ErrAlias} {
 		if found[e] == 0 {

@@ -2,53 +2,29 @@ package order_test
 
 import (
 	"math"
-	"reflect"
 	"testing"
 
 	"colloquy/api"
 	"colloquy/graph"
 	"colloquy/order"
+	"colloquy/tables"
 )
 
-// far is the edge to a node with a shift.
-func far(node, shift int) api.Edge { return api.Edge{To: node, Shift: shift} }
-
-// of is a node that acts, of a kind and a priority, with edges along which it goes on.
-func of(kind, prio int, next ...api.Edge) api.Node {
-	return api.Node{Kind: kind, Prio: prio, Next: next}
-}
-
-// ofEnd is a Send or a Recv of an endpoint.
-func ofEnd(kind, prio int, pay, next api.Edge) api.Node {
-	return api.Node{Kind: kind, Prio: prio, IsChan: true, Pay: pay, Next: []api.Edge{next}}
-}
-
-// alias is an Alias of a node, with a shift.
-func alias(node, shift int) api.Node { return of(api.Alias, 0, far(node, shift)) }
+// How tables are laid, and held against each other.
+var (
+	far, of, ofEnd, alias  = tables.Far, tables.Of, tables.OfEnd, tables.Alias
+	deep, same, oddNumbers = tables.Deep, tables.Same, tables.OddNumbers
+)
 
 // acting are the kinds of nodes that act.
 func acting() []int { return []int{api.Send, api.Recv, api.Select, api.Branch} }
 
-// deep is a copy of a table that shares nothing with it.
-func deep(nodes []api.Node) []api.Node {
-	l := append([]api.Node(nil), nodes...)
-	for i := range l {
-		l[i].Next = append([]api.Edge(nil), l[i].Next...)
-	}
-	return l
-}
-
 // wantKept asks whether a table is as it was; lists that are nil are like those without elements.
 func wantKept(t *testing.T, what string, nodes, was []api.Node) {
 	t.Helper()
-	if !reflect.DeepEqual(deep(nodes), deep(was)) {
+	if !same(nodes, was) {
 		t.Errorf("%s: what was handed in is changed", what)
 	}
-}
-
-// oddNumbers are none of any table, nor any number that may be.
-func oddNumbers() []int {
-	return []int{-1, -2, -64, math.MinInt32, math.MinInt + 1, math.MinInt, math.MaxInt32, math.MaxInt32 + 1, 1 << 32, math.MaxInt - 1, math.MaxInt}
 }
 
 func wantJump(t *testing.T, what string, nodes []api.Node, from int, e api.Edge, rise int) {
@@ -770,19 +746,9 @@ func TestAllSmallTables(t *testing.T) {
 				ofEnd(api.Send, 1, far(goal, 2), far(0, 1)), of(api.Branch, 1, far(goal, 2), far(0, 3)), of(api.Select, 0, far(n-1, 3), far(goal, 1)))
 		}
 		pool = append(pool, of(api.Send, 0, far(n, 1)))
-		l := make([]api.Node, n)
-		var lay func(at int)
-		lay = func(at int) {
-			if at == n {
-				wantAsPlain(t, l, &so)
-				return
-			}
-			for _, node := range pool {
-				l[at] = node
-				lay(at + 1)
-			}
+		for l := range tables.All(n, pool) {
+			wantAsPlain(t, l, &so)
 		}
-		lay(0)
 	}
 	for _, e := range []api.Errno{api.OK, api.ErrKind, api.ErrOpen, api.ErrAlias, api.ErrOrder} {
 		if so.errors[e] < 10 {

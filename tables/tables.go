@@ -1,0 +1,68 @@
+// Package tables helps the tests of all layers to lay tables of types.
+package tables
+
+import (
+	"iter"
+	"math"
+	"slices"
+
+	"colloquy/api"
+)
+
+// Far is the edge to a node with a shift.
+func Far(node, shift int) api.Edge { return api.Edge{To: node, Shift: shift} }
+
+// Of is a node of a kind and a priority, with edges along which it goes on.
+func Of(kind, prio int, next ...api.Edge) api.Node {
+	return api.Node{Kind: kind, Prio: prio, Next: slices.Clone(next)}
+}
+
+// OfEnd is a Send or a Recv of an endpoint.
+func OfEnd(kind, prio int, pay, next api.Edge) api.Node {
+	return api.Node{Kind: kind, Prio: prio, IsChan: true, Pay: pay, Next: []api.Edge{next}}
+}
+
+// Alias is an Alias of a node, with a shift.
+func Alias(node, shift int) api.Node { return Of(api.Alias, 0, Far(node, shift)) }
+
+// Deep is a copy of a table that shares nothing with it.
+func Deep(nodes []api.Node) []api.Node {
+	l := slices.Clone(nodes)
+	for i := range l {
+		l[i].Next = slices.Clone(l[i].Next)
+	}
+	return l
+}
+
+// Same tells whether two tables are the same; lists that are nil are like those without elements.
+func Same(a, b []api.Node) bool {
+	return slices.EqualFunc(a, b, func(m, n api.Node) bool {
+		return m.Kind == n.Kind && m.Prio == n.Prio && m.IsChan == n.IsChan && m.Pay == n.Pay && slices.Equal(m.Next, n.Next)
+	})
+}
+
+// All tells all tables of n nodes, each of which is one of the pool.
+func All(n int, pool []api.Node) iter.Seq[[]api.Node] {
+	return func(yield func([]api.Node) bool) {
+		l := make([]api.Node, n)
+		var lay func(place int) bool
+		lay = func(place int) bool {
+			if place == n {
+				return yield(Deep(l))
+			}
+			for _, node := range pool {
+				l[place] = node
+				if !lay(place + 1) {
+					return false
+				}
+			}
+			return true
+		}
+		lay(0)
+	}
+}
+
+// OddNumbers are none of a node of any table, nor any that its fields may have.
+func OddNumbers() []int {
+	return []int{-1, -2, -64, math.MinInt32, math.MinInt + 1, math.MinInt, math.MaxInt32, math.MaxInt32 + 1, 1 << 32, math.MaxInt - 1, math.MaxInt}
+}

@@ -1,0 +1,95 @@
+package tables_test
+
+import (
+	"slices"
+	"testing"
+
+	"colloquy/api"
+	"colloquy/tables"
+)
+
+// table is one of nodes of several sorts.
+func table() []api.Node {
+	return []api.Node{
+		{},
+		tables.Of(api.Select, 3, tables.Far(0, 1), tables.Far(2, 4)),
+		tables.OfEnd(api.Send, 5, tables.Far(1, 6), tables.Far(0, 7)),
+		tables.Alias(2, 8),
+	}
+}
+
+func TestNodesAsTheyAreLaid(t *testing.T) {
+	want := []api.Node{
+		{},
+		{Kind: api.Select, Prio: 3, Next: []api.Edge{{To: 0, Shift: 1}, {To: 2, Shift: 4}}},
+		{Kind: api.Send, Prio: 5, IsChan: true, Pay: api.Edge{To: 1, Shift: 6}, Next: []api.Edge{{To: 0, Shift: 7}}},
+		{Kind: api.Alias, Next: []api.Edge{{To: 2, Shift: 8}}},
+	}
+	if got := table(); !tables.Same(got, want) {
+		t.Errorf("%v, but %v is asked for", got, want)
+	}
+}
+
+func TestSameLooksAtAll(t *testing.T) {
+	for i, change := range []func(l []api.Node){
+		func(l []api.Node) { l[1].Kind = api.Branch },
+		func(l []api.Node) { l[1].Prio = 4 },
+		func(l []api.Node) { l[0].IsChan = true },
+		func(l []api.Node) { l[2].Pay.To = 2 },
+		func(l []api.Node) { l[2].Pay.Shift = 5 },
+		func(l []api.Node) { l[1].Next[1].To = 1 },
+		func(l []api.Node) { l[3].Next[0].Shift = 9 },
+		func(l []api.Node) { l[1].Next = l[1].Next[:1] },
+		func(l []api.Node) { l[0].Next = []api.Edge{{}} },
+		func(l []api.Node) { l[0], l[1] = l[1], l[0] },
+	} {
+		l := table()
+		change(l)
+		if tables.Same(l, table()) || tables.Same(table(), l) {
+			t.Errorf("the change %d is not seen", i)
+		}
+	}
+	if tables.Same(table(), table()[:3]) || tables.Same(nil, table()) {
+		t.Error("tables that are not as long are the same")
+	}
+	if !tables.Same(nil, []api.Node{}) || !tables.Same([]api.Node{{}}, []api.Node{{Next: []api.Edge{}}}) {
+		t.Error("an empty list is not like one that is nil")
+	}
+}
+
+func TestACopySharesNothing(t *testing.T) {
+	l := table()
+	c := tables.Deep(l)
+	if !tables.Same(c, table()) {
+		t.Errorf("the copy is %v", c)
+	}
+	c[0].Prio = 1
+	c[1].Next[0] = tables.Far(9, 9)
+	if !tables.Same(l, table()) {
+		t.Error("the copy shares with what it is of")
+	}
+}
+
+func TestAllTablesOfAPool(t *testing.T) {
+	pool := []api.Node{{}, {Prio: 1}, {Prio: 2}}
+	var prios []int
+	for l := range tables.All(2, pool) {
+		if len(l) != 2 {
+			t.Fatalf("a table of 2 nodes is %v", l)
+		}
+		prios = append(prios, 10*l[0].Prio+l[1].Prio)
+		l[0].Prio = 9
+	}
+	if !slices.Equal(prios, []int{0, 1, 2, 10, 11, 12, 20, 21, 22}) {
+		t.Errorf("the tables' priorities are %v", prios)
+	}
+	count := 0
+	for range tables.All(2, pool) {
+		if count++; count == 4 {
+			break
+		}
+	}
+	if count != 4 {
+		t.Errorf("%d tables are told, but 4 are asked for", count)
+	}
+}
