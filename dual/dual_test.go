@@ -638,49 +638,40 @@ func TestAllSmallTables(t *testing.T) {
 	}
 }
 
-// row is a row of numbers, always the same one.
-type row uint64
-
-// below is the row's next number, from 0 on, below n.
-func (r *row) below(n int) int {
-	*r = *r*6364136223846793005 + 1442695040888963407
-	return int(uint64(*r) >> 33 % uint64(n))
-}
-
 // mixed is a table of n nodes of all kinds. Aliases go to the nodes ahead of them, mostly.
-func mixed(r *row, n int) []api.Node {
+func mixed(r *tables.Row, n int) []api.Node {
 	l := make([]api.Node, n)
-	edge := func() api.Edge { return far(r.below(n), r.below(1001)) }
+	edge := func() api.Edge { return far(r.Below(n), r.Below(1001)) }
 	for i := range l {
-		switch kind := r.below(6); kind {
+		switch kind := r.Below(6); kind {
 		case api.Send, api.Recv:
-			l[i] = of(kind, r.below(1001), edge())
-			if l[i].IsChan = r.below(2) == 0; l[i].IsChan {
+			l[i] = of(kind, r.Below(1001), edge())
+			if l[i].IsChan = r.Below(2) == 0; l[i].IsChan {
 				l[i].Pay = edge()
 			}
 		case api.Select, api.Branch:
-			l[i] = of(kind, r.below(1001))
-			for range 1 + r.below(8) {
+			l[i] = of(kind, r.Below(1001))
+			for range 1 + r.Below(8) {
 				l[i].Next = append(l[i].Next, edge())
 			}
 		case api.Alias:
-			l[i] = alias(r.below(max(1, i)), r.below(1001))
+			l[i] = alias(r.Below(max(1, i)), r.Below(1001))
 		}
 	}
 	return l
 }
 
 func TestMixedTables(t *testing.T) {
-	r := row(6)
+	r := tables.Row(6)
 	found := map[api.Errno]int{}
 	for number := range 4000 {
-		n := 1 + r.below(12)
+		n := 1 + r.Below(12)
 		if number%20 == 0 {
-			n = 55 + r.below(11)
+			n = 55 + r.Below(11)
 		}
 		l := mixed(&r, n)
-		if r.below(10) == 0 {
-			l[r.below(n)] = of(r.below(7), 0, far(r.below(n+1), 0))
+		if r.Below(10) == 0 {
+			l[r.Below(n)] = of(r.Below(7), 0, far(r.Below(n+1), 0))
 		}
 		found[wantAsPlain(t, l)]++
 	}

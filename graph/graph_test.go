@@ -662,48 +662,39 @@ func TestAllSmallTables(t *testing.T) {
 	}
 }
 
-// row is a row of numbers, always the same one.
-type row uint64
-
-// below is the row's next number, from 0 on, below n.
-func (r *row) below(n int) int {
-	*r = *r*6364136223846793005 + 1442695040888963407
-	return int(uint64(*r) >> 33 % uint64(n))
-}
-
 // mixed is a table of n nodes of all kinds, each as it may be, but for aliases that go round.
-func mixed(r *row, n int) []api.Node {
+func mixed(r *tables.Row, n int) []api.Node {
 	l := ends(n)
-	edge := func() api.Edge { return api.Edge{To: r.below(n), Shift: r.below(1001)} }
+	edge := func() api.Edge { return api.Edge{To: r.Below(n), Shift: r.Below(1001)} }
 	for i := range l {
-		kind := r.below(6)
+		kind := r.Below(6)
 		l[i].Kind = kind
 		switch kind {
 		case api.Send, api.Recv:
 			l[i].Next = []api.Edge{edge()}
-			if l[i].IsChan = r.below(2) == 0; l[i].IsChan {
+			if l[i].IsChan = r.Below(2) == 0; l[i].IsChan {
 				l[i].Pay = edge()
 			}
 		case api.Select, api.Branch:
-			for range 1 + r.below(8) {
+			for range 1 + r.Below(8) {
 				l[i].Next = append(l[i].Next, edge())
 			}
 		case api.Alias:
 			l[i].Next = []api.Edge{edge()}
 		}
 		if acts(kind) {
-			l[i].Prio = r.below(1001)
+			l[i].Prio = r.Below(1001)
 		}
 	}
 	return l
 }
 
 // spoil makes something of a node another one, which it may not be, mostly.
-func spoil(r *row, n *api.Node, nodes int) {
-	odd := []int{-1, 0, 1, 1000, 1001, nodes - 1, nodes, math.MinInt, math.MaxInt}[r.below(9)]
-	switch r.below(8) {
+func spoil(r *tables.Row, n *api.Node, nodes int) {
+	odd := []int{-1, 0, 1, 1000, 1001, nodes - 1, nodes, math.MinInt, math.MaxInt}[r.Below(9)]
+	switch r.Below(8) {
 	case 0:
-		n.Kind = r.below(8) - 1
+		n.Kind = r.Below(8) - 1
 	case 1:
 		n.Prio = odd
 	case 2:
@@ -716,25 +707,25 @@ func spoil(r *row, n *api.Node, nodes int) {
 		n.Next = append(n.Next, api.Edge{})
 	case 6:
 		if len(n.Next) > 0 {
-			n.Next[r.below(len(n.Next))].To = odd
+			n.Next[r.Below(len(n.Next))].To = odd
 		}
 	case 7:
 		if len(n.Next) > 0 {
-			n.Next[r.below(len(n.Next))].Shift = odd
+			n.Next[r.Below(len(n.Next))].Shift = odd
 		}
 	}
 }
 
 func TestMixedTables(t *testing.T) {
-	r := row(4)
+	r := tables.Row(4)
 	found := map[api.Errno]int{}
 	for round := range 20000 {
-		l := mixed(&r, 1+r.below(12))
+		l := mixed(&r, 1+r.Below(12))
 		if round%20 == 0 {
-			l = mixed(&r, 60+r.below(8))
+			l = mixed(&r, 60+r.Below(8))
 		}
-		for range r.below(4) {
-			spoil(&r, &l[r.below(len(l))], len(l))
+		for range r.Below(4) {
+			spoil(&r, &l[r.Below(len(l))], len(l))
 		}
 		found[wantAsPlain(t, l)]++
 	}

@@ -760,56 +760,22 @@ func TestAllSmallTables(t *testing.T) {
 	}
 }
 
-// row is a row of numbers, always the same one.
-type row uint64
-
-// below is the row's next number, from 0 on, below n.
-func (r *row) below(n int) int {
-	*r = *r*6364136223846793005 + 1442695040888963407
-	return int(uint64(*r) >> 33 % uint64(n))
-}
-
-// mixed is a table of n nodes of all kinds, whose shifts are from least on, and whose priorities are below prios. Aliases go to the nodes ahead of them.
-func mixed(r *row, n, prios, least int) []api.Node {
-	l := make([]api.Node, n)
-	edge := func() api.Edge { return far(r.below(n), least+r.below(20)) }
-	for i := range l {
-		switch kind := r.below(12) % 7; kind {
-		case api.Send, api.Recv:
-			l[i] = of(kind, r.below(prios), edge())
-			if l[i].IsChan = r.below(2) == 0; l[i].IsChan {
-				l[i].Pay = edge()
-			}
-		case api.Select, api.Branch:
-			l[i] = of(kind, r.below(prios))
-			for range 1 + r.below(8) {
-				l[i].Next = append(l[i].Next, edge())
-			}
-		case api.Alias:
-			if i > 0 {
-				l[i] = alias(r.below(i), r.below(9))
-			}
-		}
-	}
-	return l
-}
-
 func TestMixedTables(t *testing.T) {
-	r := row(5)
+	r := tables.Row(5)
 	so := found{errors: map[api.Errno]int{}}
 	for round := range 4000 {
-		n := 1 + r.below(12)
+		n := 1 + r.Below(12)
 		if round%20 == 0 {
-			n = 55 + r.below(10)
+			n = 55 + r.Below(10)
 		}
-		prios := 1 + r.below(30)
+		prios := 1 + r.Below(30)
 		least := prios
-		if r.below(3) == 0 {
-			least = max(0, prios-1-r.below(2*n))
+		if r.Below(3) == 0 {
+			least = max(0, prios-1-r.Below(2*n))
 		}
-		l := mixed(&r, n, prios, least)
-		if r.below(10) == 0 {
-			l[r.below(n)] = api.Node{Kind: r.below(7), Next: []api.Edge{far(r.below(n+1), 0)}}
+		l := tables.Mixed(&r, n, prios, least)
+		if r.Below(10) == 0 {
+			l[r.Below(n)] = api.Node{Kind: r.Below(7), Next: []api.Edge{far(r.Below(n+1), 0)}}
 		}
 		wantAsPlain(t, l, &so)
 	}

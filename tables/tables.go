@@ -66,3 +66,37 @@ func All(n int, pool []api.Node) iter.Seq[[]api.Node] {
 func OddNumbers() []int {
 	return []int{-1, -2, -64, math.MinInt32, math.MinInt + 1, math.MinInt, math.MaxInt32, math.MaxInt32 + 1, 1 << 32, math.MaxInt - 1, math.MaxInt}
 }
+
+// Row is a row of numbers, always the same one.
+type Row uint64
+
+// Below is the row's next number, from 0 on, below n.
+func (r *Row) Below(n int) int {
+	*r = *r*6364136223846793005 + 1442695040888963407
+	return int(uint64(*r) >> 33 % uint64(n))
+}
+
+// Mixed is a table of n nodes of all kinds, whose shifts are from least on, and whose priorities are below prios. Aliases go to the nodes ahead of them.
+func Mixed(r *Row, n, prios, least int) []api.Node {
+	l := make([]api.Node, n)
+	edge := func() api.Edge { return Far(r.Below(n), least+r.Below(20)) }
+	for i := range l {
+		switch kind := r.Below(12) % 7; kind {
+		case api.Send, api.Recv:
+			l[i] = Of(kind, r.Below(prios), edge())
+			if l[i].IsChan = r.Below(2) == 0; l[i].IsChan {
+				l[i].Pay = edge()
+			}
+		case api.Select, api.Branch:
+			l[i] = Of(kind, r.Below(prios))
+			for range 1 + r.Below(8) {
+				l[i].Next = append(l[i].Next, edge())
+			}
+		case api.Alias:
+			if i > 0 {
+				l[i] = Alias(r.Below(i), r.Below(9))
+			}
+		}
+	}
+	return l
+}

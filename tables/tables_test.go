@@ -93,3 +93,49 @@ func TestAllTablesOfAPool(t *testing.T) {
 		t.Errorf("%d tables are told, but 4 are asked for", count)
 	}
 }
+
+func TestARowIsAlwaysTheSame(t *testing.T) {
+	first, second, other := tables.Row(3), tables.Row(3), tables.Row(4)
+	differs := false
+	met := [7]int{}
+	for range 1000 {
+		n := first.Below(7)
+		if n < 0 || n > 6 {
+			t.Fatalf("%d is not below 7", n)
+		}
+		met[n]++
+		if second.Below(7) != n {
+			t.Fatal("one row is two")
+		}
+		differs = differs || other.Below(7) != n
+	}
+	if !differs || slices.Min(met[:]) < 50 {
+		t.Errorf("the numbers are met so often: %v; two rows differ: %v", met, differs)
+	}
+}
+
+func TestMixedTablesAreOfAllKinds(t *testing.T) {
+	r := tables.Row(1)
+	kinds := [api.LastKind + 1]int{}
+	ends := 0
+	for range 200 {
+		for i, n := range tables.Mixed(&r, 12, 5, 3) {
+			kinds[n.Kind]++
+			if n.IsChan {
+				ends++
+			}
+			isAlias := n.Kind == api.Alias
+			if n.Prio < 0 || n.Prio > 4 || isAlias && n.Next[0].To >= i {
+				t.Errorf("the node %d is %v", i, n)
+			}
+			for _, e := range n.Next {
+				if e.To < 0 || e.To > 11 || !isAlias && e.Shift < 3 {
+					t.Errorf("the node %d is %v", i, n)
+				}
+			}
+		}
+	}
+	if slices.Min(kinds[:]) < 50 || ends < 50 {
+		t.Errorf("by their kinds: %v; of endpoints: %d", kinds, ends)
+	}
+}
