@@ -736,22 +736,10 @@ func TestTablesThatWereNotMadeHere(t *testing.T) {
 // R5
 
 func TestRoomBehindWhatIsHandedInStays(t *testing.T) {
-	l := append(make([]api.Node, 0, 20), talk()...)
-	for i := range l {
-		l[i].Next = append(make([]api.Edge, 0, 8), l[i].Next...)
-	}
+	l := tables.Roomy(talk())
 	wantOf(t, "a talk with room", l, talkTold())
-	for _, n := range l[len(l):cap(l)] {
-		if !same([]api.Node{n}, make([]api.Node, 1)) {
-			t.Errorf("behind the table stands %v", n)
-		}
-	}
-	for i, n := range l {
-		for _, e := range n.Next[len(n.Next):cap(n.Next)] {
-			if e != (api.Edge{}) {
-				t.Errorf("behind the edges of %d stands %v", i, e)
-			}
-		}
+	if !tables.IsRoomEmpty(l) {
+		t.Errorf("something stands behind what was handed in: %v", l)
 	}
 }
 
@@ -1077,44 +1065,13 @@ func TestMixedTables(t *testing.T) {
 	}
 }
 
-// copies is a table that holds another one so many times, each time higher: where an edge of a copy goes on, it goes to any of them, but rises as far. It answers, too, by how much each copy is higher.
-func copies(r *tables.Row, base []api.Node, count int) (nodes []api.Node, above []int) {
-	for range count {
-		above = append(above, r.Below(300))
-	}
-	n := len(base)
-	for c := range count {
-		other := func(e api.Edge) api.Edge {
-			goal := r.Below(count)
-			return far(goal*n+e.To, e.Shift+above[c]-above[goal])
-		}
-		for _, node := range deep(base) {
-			switch node.Kind {
-			case api.End:
-			case api.Alias: // its shift is too small to go elsewhere
-				node.Next[0].To += c * n
-			default:
-				node.Prio += above[c]
-				if node.IsChan {
-					node.Pay = other(node.Pay)
-				}
-				for i, e := range node.Next {
-					node.Next[i] = other(e)
-				}
-			}
-			nodes = append(nodes, node)
-		}
-	}
-	return nodes, above
-}
-
 func TestCopiesAreAlike(t *testing.T) {
 	r := tables.Row(8)
 	parted := 0
 	for range 300 {
 		n, count := 1+r.Below(7), 1+r.Below(5)
 		base := tables.Mixed(&r, n, 30, 330)
-		l, above := copies(&r, base, count)
+		l, above := tables.Copies(&r, base, count)
 		wantAsPlain(t, l)
 		one, x := made(t, "a table", base), made(t, "its copies", l)
 		if len(x.Classes) != len(one.Classes) {

@@ -236,28 +236,14 @@ func TestEmptyListsAreLikeNil(t *testing.T) {
 
 // busy is a table of some lists, each with room behind it, as is the table.
 func busy() []api.Node {
-	l := make([]api.Node, 0, 16)
-	l = append(l, api.Node{}, of(api.Select, 1, far(0, 1), far(2, 2), far(3, 3)), of(api.Send, 2, far(1, 9)), alias(1, 4), of(api.Branch, 3, far(2, 0)))
-	for i := range l {
-		l[i].Next = append(make([]api.Edge, 0, 8), l[i].Next...)
-	}
-	return l
+	return tables.Roomy([]api.Node{{}, of(api.Select, 1, far(0, 1), far(2, 2), far(3, 3)), of(api.Send, 2, far(1, 9)), alias(1, 4), of(api.Branch, 3, far(2, 0))})
 }
 
 func TestRoomBehindWhatIsHandedInStays(t *testing.T) {
 	l := busy()
 	dual.Table(l)
-	for _, n := range l[len(l):cap(l)] {
-		if !same([]api.Node{n}, make([]api.Node, 1)) {
-			t.Errorf("behind the table stands %v", n)
-		}
-	}
-	for i, n := range l {
-		for _, e := range n.Next[len(n.Next):cap(n.Next)] {
-			if e != (api.Edge{}) {
-				t.Errorf("behind the edges of %d stands %v", i, e)
-			}
-		}
+	if !tables.IsRoomEmpty(l) {
+		t.Errorf("something stands behind what was handed in: %v", l)
 	}
 }
 

@@ -34,6 +34,31 @@ func Deep(nodes []api.Node) []api.Node {
 	return l
 }
 
+// Roomy is a copy of a table with room behind it, and behind each of its lists.
+func Roomy(nodes []api.Node) []api.Node {
+	l := append(make([]api.Node, 0, len(nodes)+8), nodes...)
+	for i := range l {
+		l[i].Next = append(make([]api.Edge, 0, len(l[i].Next)+8), l[i].Next...)
+	}
+	return l
+}
+
+// IsRoomEmpty tells whether nothing was laid in the room behind a table, and behind its lists.
+func IsRoomEmpty(nodes []api.Node) bool {
+	behind := nodes[len(nodes):cap(nodes)]
+	if !Same(behind, make([]api.Node, len(behind))) {
+		return false
+	}
+	for _, n := range nodes {
+		for _, e := range n.Next[len(n.Next):cap(n.Next)] {
+			if e != (api.Edge{}) {
+				return false
+			}
+		}
+	}
+	return true
+}
+
 // Same tells whether two tables are the same; lists that are nil are like those without elements.
 func Same(a, b []api.Node) bool {
 	return slices.EqualFunc(a, b, func(m, n api.Node) bool {
@@ -99,4 +124,35 @@ func Mixed(r *Row, n, prios, least int) []api.Node {
 		}
 	}
 	return l
+}
+
+// Copies is a table that holds another one so many times, each time higher: where an edge of a copy goes on, it goes to any of them, but rises as far. It answers, too, by how much each copy is higher.
+func Copies(r *Row, base []api.Node, count int) (nodes []api.Node, above []int) {
+	for range count {
+		above = append(above, r.Below(300))
+	}
+	n := len(base)
+	for c := range count {
+		other := func(e api.Edge) api.Edge {
+			goal := r.Below(count)
+			return Far(goal*n+e.To, e.Shift+above[c]-above[goal])
+		}
+		for _, node := range Deep(base) {
+			switch node.Kind {
+			case api.End:
+			case api.Alias: // its shift is too small to go elsewhere
+				node.Next[0].To += c * n
+			default:
+				node.Prio += above[c]
+				if node.IsChan {
+					node.Pay = other(node.Pay)
+				}
+				for i, e := range node.Next {
+					node.Next[i] = other(e)
+				}
+			}
+			nodes = append(nodes, node)
+		}
+	}
+	return nodes, above
 }

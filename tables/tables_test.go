@@ -70,6 +70,24 @@ func TestACopySharesNothing(t *testing.T) {
 	}
 }
 
+func TestRoomBehindATable(t *testing.T) {
+	l := tables.Roomy(table())
+	if !tables.Same(l, table()) || !tables.IsRoomEmpty(l) || !tables.IsRoomEmpty(nil) {
+		t.Errorf("with room the table is %v", l)
+	}
+	for i := range l {
+		_ = append(l[i].Next, tables.Far(0, 1))
+		if tables.IsRoomEmpty(l) || !tables.Same(l, table()) {
+			t.Errorf("what is laid behind the list of %d is not seen", i)
+		}
+		l = tables.Roomy(table())
+	}
+	_ = append(l, api.Node{}, api.Node{Prio: 1})
+	if tables.IsRoomEmpty(l) || !tables.Same(l, table()) {
+		t.Error("what is laid behind the table is not seen")
+	}
+}
+
 func TestAllTablesOfAPool(t *testing.T) {
 	pool := []api.Node{{}, {Prio: 1}, {Prio: 2}}
 	var prios []int
@@ -137,5 +155,50 @@ func TestMixedTablesAreOfAllKinds(t *testing.T) {
 	}
 	if slices.Min(kinds[:]) < 50 || ends < 50 {
 		t.Errorf("by their kinds: %v; of endpoints: %d", kinds, ends)
+	}
+}
+
+// A copy's priorities are as much higher as is told, and each of its edges goes to some copy of where it went, and rises as far.
+func TestCopiesRiseAsWhatTheyAreOf(t *testing.T) {
+	r := tables.Row(2)
+	elsewhere := 0
+	for range 100 {
+		n, count := 1+r.Below(6), 1+r.Below(4)
+		base := tables.Mixed(&r, n, 30, 330)
+		was := tables.Deep(base)
+		l, above := tables.Copies(&r, base, count)
+		if !tables.Same(base, was) {
+			t.Fatal("the table is changed")
+		}
+		if len(l) != n*count || len(above) != count {
+			t.Fatalf("%d nodes and %d numbers of %d copies of %d nodes", len(l), len(above), count, n)
+		}
+		for i, copied := range l {
+			c, b := i/n, base[i%n]
+			rises := above[c]
+			if b.Kind == api.End || b.Kind == api.Alias {
+				rises = 0
+			}
+			if copied.Kind != b.Kind || copied.Prio != b.Prio+rises || copied.IsChan != b.IsChan || len(copied.Next) != len(b.Next) {
+				t.Errorf("the node %d is %v, a copy of %v", i, copied, b)
+				continue
+			}
+			edges, others := append(copied.Next, copied.Pay), append(b.Next, b.Pay)
+			if !b.IsChan {
+				edges, others = copied.Next, b.Next
+			}
+			for j, e := range edges {
+				goal := e.To / n
+				if e.To%n != others[j].To || e.Shift+above[goal] != others[j].Shift+above[c] {
+					t.Errorf("the node %d is %v, a copy of %v", i, copied, b)
+				}
+				if goal != c {
+					elsewhere++
+				}
+			}
+		}
+	}
+	if elsewhere < 100 {
+		t.Errorf("just %d edges go to another copy", elsewhere)
 	}
 }
