@@ -7,6 +7,7 @@ import (
 
 	"colloquy/api"
 	"colloquy/blocks"
+	"colloquy/codes"
 	"colloquy/tables"
 )
 
@@ -29,7 +30,7 @@ func halt() api.Insn { return at(api.OpHalt) }
 func rowOf(x api.Insn, count int) []api.Insn {
 	var l []api.Insn
 	for range count {
-		l = append(l, deepInsn(x))
+		l = append(l, codes.Deep(x))
 	}
 	return l
 }
@@ -55,14 +56,6 @@ func noOps() []int {
 	return append(tables.OddNumbers(), 25, 26, 31, 32, 63, 64, 127, 128, 255, 256+api.OpJump, 256+api.OpSend, 1<<32+api.OpBranch, api.OpHalt-256)
 }
 
-// deepInsn is a copy of an instruction that shares nothing with it, with room behind its list.
-func deepInsn(x api.Insn) api.Insn {
-	if x.L != nil {
-		x.L = append(make([]int, 0, len(x.L)+4), x.L...)
-	}
-	return x
-}
-
 // deep is a copy of a code that shares nothing with it, with room behind it and its lists.
 func deep(code []api.Insn) []api.Insn {
 	if code == nil {
@@ -70,7 +63,7 @@ func deep(code []api.Insn) []api.Insn {
 	}
 	l := make([]api.Insn, 0, len(code)+4)
 	for _, x := range code {
-		l = append(l, deepInsn(x))
+		l = append(l, codes.Deep(x))
 	}
 	return l
 }
@@ -116,7 +109,7 @@ func spoil(l []int) {
 // wantTargets asks for what Targets answers, again also where the first answer was changed.
 func wantTargets(t *testing.T, x api.Insn, want ...int) {
 	t.Helper()
-	given := deepInsn(x)
+	given := codes.Deep(x)
 	for range 2 {
 		got := blocks.Targets(given)
 		if !slices.Equal(got, want) {

@@ -7,6 +7,7 @@ import (
 	"testing"
 
 	"colloquy/api"
+	"colloquy/codes"
 	"colloquy/faults"
 	"colloquy/insn"
 	"colloquy/leb"
@@ -14,24 +15,11 @@ import (
 	"colloquy/tables"
 )
 
-// same tells whether two instructions are the same; a list that is nil is like one without elements.
-func same(x, y api.Insn) bool {
-	return x.Op == y.Op && x.A == y.A && x.B == y.B && x.C == y.C && x.D == y.D && slices.Equal(x.L, y.L)
-}
-
-// deep is a copy of an instruction that shares nothing with it, with room behind its list.
-func deep(x api.Insn) api.Insn {
-	if x.L != nil {
-		x.L = append(make([]int, 0, len(x.L)+4), x.L...)
-	}
-	return x
-}
-
 // wantKept asks that an instruction that was handed in is as it was, and so is the room behind its list.
 func wantKept(t *testing.T, x, was api.Insn) {
 	t.Helper()
 	room := x.L[len(x.L):cap(x.L)]
-	if !same(x, was) || (x.L == nil) != (was.L == nil) || !slices.Equal(room, make([]int, len(room))) {
+	if !codes.Same(x, was) || (x.L == nil) != (was.L == nil) || !slices.Equal(room, make([]int, len(room))) {
 		t.Errorf("%v was handed in, and is %v now", was, x)
 	}
 }
@@ -39,7 +27,7 @@ func wantKept(t *testing.T, x, was api.Insn) {
 // wantCheck asks for Check's answer, and that Put has the same one: that it lays nothing beside an error, and something else.
 func wantCheck(t *testing.T, x api.Insn, e api.Errno) {
 	t.Helper()
-	given := deep(x)
+	given := codes.Deep(x)
 	for range 2 {
 		if got := insn.Check(given); got != e {
 			t.Errorf("Check of %v: %d, but %d is asked for", x, got, e)
@@ -68,7 +56,7 @@ func wantBytes(t *testing.T, x api.Insn, bytes string) {
 // wantRead asks for an instruction that is read, and for the reader's place behind it.
 func wantRead(t *testing.T, r *octets.Reader, x api.Insn, place int) {
 	t.Helper()
-	if got, err := insn.Read(r); !same(got, x) || err != nil {
+	if got, err := insn.Read(r); !codes.Same(got, x) || err != nil {
 		t.Errorf("Read: %v, %v, but %v is asked for", got, err, x)
 	}
 	if r.Place() != place {
@@ -83,7 +71,7 @@ func wantNoRead(t *testing.T, r *octets.Reader, code api.Errno, at, place int) {
 	if wrong := faults.Unlike(err, code, at); wrong != "" {
 		t.Errorf("Read: %s", wrong)
 	}
-	if !same(x, api.Insn{}) {
+	if !codes.Same(x, api.Insn{}) {
 		t.Errorf("Read: %v beside a fault", x)
 	}
 	if r.Place() != place {
@@ -196,7 +184,7 @@ func operands(x api.Insn) []operand {
 
 // with is a copy of an instruction, in which the operand of that number is another one; how many its list has stays.
 func with(x api.Insn, number, value int) api.Insn {
-	x = deep(x)
+	x = codes.Deep(x)
 	ops := operands(x)
 	switch ops[number].name {
 	case "B":
@@ -347,7 +335,7 @@ func TestEachWholeNumberMayBePushed(t *testing.T) {
 func TestOpsThatAreNone(t *testing.T) {
 	for _, op := range noOps() {
 		for _, k := range known() {
-			x := deep(k.x)
+			x := codes.Deep(k.x)
 			x.Op = op
 			wantCheck(t, x, api.ErrOp)
 		}
@@ -364,23 +352,23 @@ func TestWhatIsNoOperandIsZero(t *testing.T) {
 			has[o.name]++
 		}
 		for _, n := range append(tables.OddNumbers(), 1, 2, 15) {
-			x := deep(k.x)
+			x := codes.Deep(k.x)
 			if x.A = int64(n); x.Op != api.OpPush {
 				wantCheck(t, x, api.ErrArg)
 			}
-			x = deep(k.x)
+			x = codes.Deep(k.x)
 			if x.B = n; has["B"] == 0 {
 				wantCheck(t, x, api.ErrArg)
 			}
-			x = deep(k.x)
+			x = codes.Deep(k.x)
 			if x.C = n; has["C"] == 0 {
 				wantCheck(t, x, api.ErrArg)
 			}
-			x = deep(k.x)
+			x = codes.Deep(k.x)
 			if x.D = n; has["D"] == 0 {
 				wantCheck(t, x, api.ErrArg)
 			}
-			x = deep(k.x)
+			x = codes.Deep(k.x)
 			if x.L = []int{n}; !slices.Contains(hasList, x.Op) {
 				wantCheck(t, x, api.ErrArg)
 			}
@@ -390,7 +378,7 @@ func TestWhatIsNoOperandIsZero(t *testing.T) {
 
 func TestAListThatIsEmptyIsLikeNone(t *testing.T) {
 	for _, k := range known() {
-		x := deep(k.x)
+		x := codes.Deep(k.x)
 		if len(x.L) > 0 {
 			continue
 		}
@@ -815,43 +803,11 @@ func TestKnownInstructionsComeBack(t *testing.T) {
 	}
 }
 
-// mixed is an instruction that may be.
-func mixed(r *tables.Row) api.Insn {
-	registers := upTo(16)
-	for i := range registers {
-		j := i + r.Below(16-i)
-		registers[i], registers[j] = registers[j], registers[i]
-	}
-	x := api.Insn{Op: r.Below(api.LastOp + 1)}
-	switch x.Op {
-	case api.OpPush:
-		x.A = int64(uint64(r.Below(1<<31))<<33|uint64(r.Below(1<<31))) >> r.Below(64)
-	case api.OpGet, api.OpPut, api.OpSend, api.OpRecv, api.OpClose:
-		x.B = registers[0]
-	case api.OpGive, api.OpTake, api.OpMove:
-		x.B, x.C = registers[0], registers[1]
-	case api.OpJump, api.OpJz:
-		x.L = []int{r.Below(128)}
-	case api.OpSelect:
-		x.B, x.C = registers[0], r.Below(8)
-	case api.OpBranch:
-		x.B = registers[0]
-		for range 1 + r.Below(8) {
-			x.L = append(x.L, r.Below(128))
-		}
-	case api.OpNew:
-		x.B, x.D, x.L = r.Below(64), r.Below(1001), registers[:2]
-	case api.OpSpawn:
-		x.B, x.L = r.Below(16), registers[:r.Below(9)]
-	}
-	return x
-}
-
 func TestManyInstructionsComeBack(t *testing.T) {
 	row := tables.Row(9)
 	for range 20000 {
-		x := mixed(&row)
-		was := deep(x)
+		x := codes.Mixed(&row)
+		was := codes.Deep(x)
 		wantCheck(t, x, api.OK)
 		s := bytesOf(t, x)
 		wantRead(t, octets.NewReader(s), was, len(s))
@@ -872,7 +828,7 @@ func TestNoBeginningIsAnotherOnes(t *testing.T) {
 		all = append(all, bytesOf(t, k.x))
 	}
 	for range 20000 {
-		all = append(all, bytesOf(t, mixed(&row)))
+		all = append(all, bytesOf(t, codes.Mixed(&row)))
 	}
 	slices.Sort(all)
 	all = slices.Compact(all)
@@ -907,7 +863,7 @@ func TestOnlyItsOwnBytesAreRead(t *testing.T) {
 func TestBytesThatWereSpoilt(t *testing.T) {
 	row, read := tables.Row(5), 0
 	for range 100000 {
-		s := []byte(bytesOf(t, mixed(&row)))
+		s := []byte(bytesOf(t, codes.Mixed(&row)))
 		for range 1 + row.Below(3) {
 			i := row.Below(len(s))
 			switch row.Below(6) {
