@@ -12,6 +12,7 @@ import (
 	"colloquy/insn"
 	"colloquy/leb"
 	"colloquy/module"
+	"colloquy/modules"
 	"colloquy/octets"
 	"colloquy/sect"
 	"colloquy/tables"
@@ -197,7 +198,7 @@ func bytesOf(m api.Module) string { return whole(textsOf(m)) }
 
 // placed is a copy of a module, with the places at which its things stand among its bytes.
 func placed(m api.Module) api.Module {
-	m = roomy(m)
+	m = modules.Roomy(m)
 	m.NodeAt, m.TemplateAt, m.ChanAt, m.StartAt = nil, nil, nil, nil
 	for i := range m.Templates {
 		m.Templates[i].At = nil
@@ -225,46 +226,6 @@ func placed(m api.Module) api.Module {
 	return m
 }
 
-// withRoom is a copy of a list, with room behind it.
-func withRoom[T any](l []T) []T {
-	if l == nil {
-		return nil
-	}
-	return append(make([]T, 0, len(l)+3), l...)
-}
-
-// roomy is a copy of a module that shares nothing with it, with room behind each of its lists.
-func roomy(m api.Module) api.Module {
-	m.Nodes, m.Templates, m.Chans, m.Starts = withRoom(m.Nodes), withRoom(m.Templates), withRoom(m.Chans), withRoom(m.Starts)
-	m.NodeAt, m.TemplateAt, m.ChanAt, m.StartAt = withRoom(m.NodeAt), withRoom(m.TemplateAt), withRoom(m.ChanAt), withRoom(m.StartAt)
-	for i, n := range m.Nodes {
-		m.Nodes[i].Next = withRoom(n.Next)
-	}
-	for i, one := range m.Templates {
-		one.Params, one.Code, one.At = withRoom(one.Params), withRoom(one.Code), withRoom(one.At)
-		for j, x := range one.Code {
-			one.Code[j] = codes.Deep(x)
-		}
-		m.Templates[i] = one
-	}
-	for i, s := range m.Starts {
-		m.Starts[i].Args = withRoom(s.Args)
-	}
-	return m
-}
-
-// same tells whether two modules are the same, also in where their things stand; lists that are nil are like those without elements.
-func same(a, b api.Module) bool {
-	sameTemplate := func(x, y api.Template) bool {
-		return slices.Equal(x.Params, y.Params) && slices.EqualFunc(x.Code, y.Code, codes.Same) && slices.Equal(x.At, y.At)
-	}
-	sameStart := func(x, y api.Start) bool { return x.Template == y.Template && slices.Equal(x.Args, y.Args) }
-	sameThings := tables.Same(a.Nodes, b.Nodes) && slices.EqualFunc(a.Templates, b.Templates, sameTemplate) &&
-		slices.Equal(a.Chans, b.Chans) && slices.EqualFunc(a.Starts, b.Starts, sameStart)
-	return sameThings && slices.Equal(a.NodeAt, b.NodeAt) && slices.Equal(a.TemplateAt, b.TemplateAt) &&
-		slices.Equal(a.ChanAt, b.ChanAt) && slices.Equal(a.StartAt, b.StartAt)
-}
-
 // eachList tells all lists that a value holds.
 func eachList(v reflect.Value, tell func(list reflect.Value)) {
 	switch v.Kind() {
@@ -280,20 +241,15 @@ func eachList(v reflect.Value, tell func(list reflect.Value)) {
 	}
 }
 
-// wantKept asks that a module that was handed in, a copy by roomy, is as it was, and so is the room behind its lists.
+// wantKept asks that a module that was handed in, a copy by modules.Roomy, is as it was, and so is the room behind its lists.
 func wantKept(t *testing.T, given, was api.Module) {
 	t.Helper()
-	if !reflect.DeepEqual(given, was) {
+	if !modules.Same(given, was) {
 		t.Errorf("%v was handed in, and is %v now", was, given)
 	}
-	eachList(reflect.ValueOf(given), func(list reflect.Value) {
-		room := list.Slice(list.Len(), list.Cap())
-		for i := range room.Len() {
-			if !room.Index(i).IsZero() {
-				t.Errorf("%v: %v was laid behind a list", was, room.Index(i))
-			}
-		}
-	})
+	if !modules.IsRoomEmpty(given) {
+		t.Errorf("%v: something was laid behind a list", was)
+	}
 }
 
 // wantApart asks that no two lists of these modules share memory.
@@ -321,7 +277,7 @@ func wantApart(t *testing.T, all ...api.Module) {
 // wantPut asks for the bytes that are laid of a module, again also where the first ones were laid.
 func wantPut(t *testing.T, m api.Module, bytes string) {
 	t.Helper()
-	given, was := roomy(m), roomy(m)
+	given, was := modules.Roomy(m), modules.Roomy(m)
 	for range 2 {
 		if got, e := module.Put(given); got != bytes || e != api.OK {
 			t.Errorf("Put of %v: % x, %d, but % x is asked for", m, got, e, bytes)
@@ -333,7 +289,7 @@ func wantPut(t *testing.T, m api.Module, bytes string) {
 // wantNoPut asks for ErrArg alone.
 func wantNoPut(t *testing.T, m api.Module) {
 	t.Helper()
-	given, was := roomy(m), roomy(m)
+	given, was := modules.Roomy(m), modules.Roomy(m)
 	for range 2 {
 		if got, e := module.Put(given); got != "" || e != api.ErrArg {
 			t.Errorf("Put of %v: % x, %d, but ErrArg alone is asked for", m, got, e)
@@ -347,7 +303,7 @@ func wantRead(t *testing.T, s string, m api.Module) {
 	t.Helper()
 	first, err := module.Read(s)
 	second, bad := module.Read(s)
-	if err != nil || bad != nil || !same(first, m) || !same(second, m) {
+	if err != nil || bad != nil || !modules.Same(first, m) || !modules.Same(second, m) {
 		t.Errorf("Read of % x: %v, %v, but %v is asked for", s, first, err, m)
 	}
 	wantApart(t, first, second)
@@ -367,16 +323,7 @@ func wantNoRead(t *testing.T, s string, code api.Errno, at int) {
 	}
 }
 
-// least is the module of one End, of one template of a halt, and of one start of it.
-func least() api.Module {
-	return api.Module{
-		Nodes:     []api.Node{{Kind: api.End}},
-		Templates: []api.Template{{Code: []api.Insn{{Op: api.OpHalt}}}},
-		Starts:    []api.Start{{}},
-	}
-}
-
-// leastBytes are its bytes.
+// leastBytes are those of modules.Least.
 const leastBytes = "CLQY\x01" + "\x01\x02\x01\x00" + "\x02\x04\x01\x00\x01\x18" + "\x03\x04\x00\x01\x00\x00"
 
 // eachOp is a code with an instruction of each op.
@@ -468,7 +415,7 @@ func full() api.Module {
 
 // known are modules of several sorts, that can be laid.
 func known() []api.Module {
-	return []api.Module{{}, least(), every(), full()}
+	return []api.Module{{}, modules.Least(), every(), full()}
 }
 
 // pick is a number from least to most, as often one of both ends as another one.
@@ -839,7 +786,7 @@ func TestManyAskAtOneTime(t *testing.T) {
 		go func() {
 			s, e := module.Put(m)
 			got, err := module.Read(everyBytes)
-			done <- e == api.OK && s == everyBytes && err == nil && same(got, want)
+			done <- e == api.OK && s == everyBytes && err == nil && modules.Same(got, want)
 		}()
 	}
 	for range 16 {

@@ -8,6 +8,7 @@ import (
 
 	"colloquy/api"
 	"colloquy/module"
+	"colloquy/modules"
 	"colloquy/tables"
 )
 
@@ -77,9 +78,9 @@ func wantEither(t *testing.T, m api.Module, can bool) {
 // P11.1
 
 func TestExamplesOfPut(t *testing.T) {
-	wantPut(t, least(), leastBytes)
+	wantPut(t, modules.Least(), leastBytes)
 	wantPut(t, api.Module{}, head+"\x01\x01\x00"+"\x02\x01\x00"+"\x03\x02\x00\x00")
-	m := least()
+	m := modules.Least()
 	m.Templates[0].Code = nil
 	wantNoPut(t, m)
 }
@@ -101,7 +102,7 @@ func TestListsThatAreEmptyAreLikeNone(t *testing.T) {
 		NodeAt: []int{}, TemplateAt: []int{}, ChanAt: []int{}, StartAt: []int{},
 	}
 	wantPut(t, m, bytesOf(api.Module{}))
-	m = least()
+	m = modules.Least()
 	m.Nodes[0].Next = []api.Edge{}
 	m.Templates[0].Params = []api.Param{}
 	m.Templates[0].At = []int{}
@@ -113,7 +114,7 @@ func TestListsThatAreEmptyAreLikeNone(t *testing.T) {
 }
 
 func TestEachNumberAtItsEnds(t *testing.T) {
-	for _, m := range []api.Module{least(), every()} {
+	for _, m := range []api.Module{modules.Least(), every()} {
 		bytes := bytesOf(m)
 		for _, n := range numbersOf(&m) {
 			was := *n.at
@@ -320,10 +321,10 @@ func TestInstructionsThatMayNotBe(t *testing.T) {
 		wantNoPut(t, withCode(x))
 		m := every()
 		for i := range m.Templates {
-			m := roomy(m)
+			m := modules.Roomy(m)
 			m.Templates[i].Code[0] = x
 			wantNoPut(t, m)
-			m = roomy(every())
+			m = modules.Roomy(every())
 			m.Templates[i].Code = append(m.Templates[i].Code, x)
 			wantNoPut(t, m)
 		}
@@ -502,7 +503,7 @@ func TestTheLastThingOfEachList(t *testing.T) {
 		"start":       func(m *api.Module) { m.Starts[7].Template = 16 },
 		"argument":    func(m *api.Module) { m.Starts[7].Args[7].End = 1 },
 	} {
-		m := roomy(full())
+		m := modules.Roomy(full())
 		spoil(&m)
 		if s, e := module.Put(m); s != "" || e != api.ErrArg {
 			t.Errorf("%s: %d, %d bytes", what, e, len(s))

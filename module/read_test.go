@@ -8,6 +8,7 @@ import (
 	"colloquy/api"
 	"colloquy/insn"
 	"colloquy/module"
+	"colloquy/modules"
 	"colloquy/octets"
 	"colloquy/sect"
 	"colloquy/tables"
@@ -59,7 +60,7 @@ func spoilParts(t *testing.T, m api.Module, isAsked func(p part) bool, bytes str
 // P11.2
 
 func TestExamplesOfRead(t *testing.T) {
-	m := least()
+	m := modules.Least()
 	m.NodeAt, m.TemplateAt, m.StartAt = []int{8}, []int{12}, []int{19}
 	m.Templates[0].At = []int{14}
 	wantRead(t, leastBytes, m)
@@ -71,7 +72,7 @@ func TestExamplesOfRead(t *testing.T) {
 
 func TestAllThingsAndTheirPlaces(t *testing.T) {
 	wantRead(t, everyBytes, everyPlaced())
-	if !same(placed(every()), everyPlaced()) {
+	if !modules.Same(placed(every()), everyPlaced()) {
 		t.Errorf("the chapter's words place it so: %v", placed(every()))
 	}
 }
@@ -151,7 +152,7 @@ func TestSectionsComeAheadOfWhatIsInThem(t *testing.T) {
 
 // A text that is cut, in a section that is as long: what is lacking is looked for at its end, though the next section stands there.
 func TestTextsCutAtEachPlace(t *testing.T) {
-	for _, m := range []api.Module{least(), every()} {
+	for _, m := range []api.Module{modules.Least(), every()} {
 		for i, text := range textsOf(m) {
 			for cut := range len(text) {
 				texts := textsOf(m)
