@@ -8,6 +8,7 @@ import (
 	"colloquy/api"
 	"colloquy/class"
 	"colloquy/dual"
+	"colloquy/facts"
 	"colloquy/graph"
 	"colloquy/order"
 	"colloquy/tables"
@@ -38,28 +39,12 @@ func ends(kind, dual int, pay, next api.Link) api.Class {
 // end is the class of all Ends, with its own number.
 func end(number int) api.Class { return api.Class{Dual: number} }
 
-// deepTable is a copy of a table that shares nothing with it.
-func deepTable(x api.Table) api.Table {
-	x.Classes, x.Of, x.Prio = slices.Clone(x.Classes), slices.Clone(x.Of), slices.Clone(x.Prio)
-	for i := range x.Classes {
-		x.Classes[i].Next = slices.Clone(x.Classes[i].Next)
-	}
-	return x
-}
-
-// sameTable tells whether two tables are the same; lists that are nil are like those without elements.
-func sameTable(a, b api.Table) bool {
-	return slices.Equal(a.Of, b.Of) && slices.Equal(a.Prio, b.Prio) && slices.EqualFunc(a.Classes, b.Classes, func(c, d api.Class) bool {
-		return c.Kind == d.Kind && c.Dual == d.Dual && c.IsChan == d.IsChan && c.Pay == d.Pay && slices.Equal(c.Next, d.Next)
-	})
-}
-
 // wantOf asks for what Of answers: each class, and of each of the 2N nodes its class and its priority.
 func wantOf(t *testing.T, what string, nodes []api.Node, want api.Table) {
 	t.Helper()
 	was := deep(nodes)
 	for range 2 {
-		if got, e := class.Of(nodes); e != api.OK || !sameTable(got, want) {
+		if got, e := class.Of(nodes); e != api.OK || !facts.SameTable(got, want) {
 			t.Errorf("%s: %v, %d, but %v is asked for", what, got, e, want)
 		}
 	}
@@ -76,7 +61,7 @@ func wantError(t *testing.T, what string, nodes []api.Node, want api.Errno) {
 		t.Fatalf("%s: order.Check: %d, but %d is asked for", what, e, want)
 	}
 	for range 2 {
-		if got, e := class.Of(nodes); e != want || !sameTable(got, api.Table{}) {
+		if got, e := class.Of(nodes); e != want || !facts.SameTable(got, api.Table{}) {
 			t.Errorf("%s: %v, %d, but nothing, and %d, is asked for", what, got, e, want)
 		}
 	}
@@ -122,39 +107,39 @@ func wantAlike(t *testing.T, what string, nodes []api.Node, a, b int, alike bool
 
 func wantType(t *testing.T, what string, x api.Table, y api.Type, number, prio int) {
 	t.Helper()
-	was := deepTable(x)
+	was := facts.RoomyTable(x)
 	for range 2 {
 		if c, p := class.Type(x, y); c != number || p != prio {
 			t.Errorf("%s: Type of %v: %d, %d, but %d, %d is asked for", what, y, c, p, number, prio)
 		}
 	}
-	if !sameTable(x, was) {
+	if !facts.SameTable(x, was) {
 		t.Errorf("%s: what was handed in is changed", what)
 	}
 }
 
 func wantNext(t *testing.T, what string, x api.Table, number, prio, i int, goal, rises int) {
 	t.Helper()
-	was := deepTable(x)
+	was := facts.RoomyTable(x)
 	for range 2 {
 		if c, p := class.Next(x, number, prio, i); c != goal || p != rises {
 			t.Errorf("%s: Next %d of %d at %d: %d, %d, but %d, %d is asked for", what, i, number, prio, c, p, goal, rises)
 		}
 	}
-	if !sameTable(x, was) {
+	if !facts.SameTable(x, was) {
 		t.Errorf("%s: what was handed in is changed", what)
 	}
 }
 
 func wantPay(t *testing.T, what string, x api.Table, number, prio int, goal, rises int) {
 	t.Helper()
-	was := deepTable(x)
+	was := facts.RoomyTable(x)
 	for range 2 {
 		if c, p := class.Pay(x, number, prio); c != goal || p != rises {
 			t.Errorf("%s: Pay of %d at %d: %d, %d, but %d, %d is asked for", what, number, prio, c, p, goal, rises)
 		}
 	}
-	if !sameTable(x, was) {
+	if !facts.SameTable(x, was) {
 		t.Errorf("%s: what was handed in is changed", what)
 	}
 }
@@ -590,7 +575,7 @@ func TestMaxNodesOfAliases(t *testing.T) {
 	}
 	l[63] = of(api.Send, 1000, far(0, 1000))
 	x := made(t, "aliases", l)
-	if !sameTable(api.Table{Classes: x.Classes}, api.Table{Classes: []api.Class{words(api.Send, 1, to(0, 64000)), words(api.Recv, 0, to(1, 64000))}}) {
+	if !facts.SameTable(api.Table{Classes: x.Classes}, api.Table{Classes: []api.Class{words(api.Send, 1, to(0, 64000)), words(api.Recv, 0, to(1, 64000))}}) {
 		t.Errorf("the classes are %v", x.Classes)
 	}
 	for i := range 128 {
@@ -716,7 +701,7 @@ func TestTablesThatWereNotMadeHere(t *testing.T) {
 			{Of: []int{n, 0}, Prio: []int{n, n}, Classes: []api.Class{{Kind: n, Dual: n, IsChan: true, Pay: link, Next: []api.Link{link, {}}}}},
 			{Classes: []api.Class{{Kind: api.Select, IsChan: true, Next: []api.Link{link}}, {Pay: link}, {IsChan: true, Pay: link}}},
 		} {
-			was := deepTable(x)
+			was := facts.RoomyTable(x)
 			for _, a := range odd {
 				for _, b := range odd {
 					for range 2 {
@@ -726,7 +711,7 @@ func TestTablesThatWereNotMadeHere(t *testing.T) {
 					}
 				}
 			}
-			if !sameTable(x, was) {
+			if !facts.SameTable(x, was) {
 				t.Errorf("what was handed in is changed: %v", was)
 			}
 		}
@@ -755,7 +740,7 @@ func TestWhatIsAnsweredIsNew(t *testing.T) {
 	for i := range first.Of {
 		first.Of[i], first.Prio[i] = 77, 78
 	}
-	if !sameTable(second, talkTold()) || !same(l, talk()) {
+	if !facts.SameTable(second, talkTold()) || !same(l, talk()) {
 		t.Error("an answer shares with another one, or with what was handed in")
 	}
 	wantOf(t, "a talk again", l, talkTold())
@@ -765,7 +750,7 @@ func TestWhatIsAnsweredIsNew(t *testing.T) {
 		}
 		l[i] = api.Node{}
 	}
-	if !sameTable(second, talkTold()) {
+	if !facts.SameTable(second, talkTold()) {
 		t.Error("what was handed in shares with what is answered")
 	}
 }
@@ -795,7 +780,7 @@ func TestNoTwoListsOfAnAnswerShare(t *testing.T) {
 			_ = append(c.Next, to(78, 78), to(79, 79))
 			c.Next = want.Classes[i-2].Next
 		}
-		if !sameTable(x, want) {
+		if !facts.SameTable(x, want) {
 			t.Errorf("the list %d is another one's, too", i)
 		}
 	}

@@ -5,6 +5,7 @@ import (
 	"slices"
 
 	"colloquy/api"
+	"colloquy/lists"
 	"colloquy/tables"
 )
 
@@ -15,9 +16,7 @@ func Same(x, y api.Insn) bool {
 
 // Deep is a copy of an instruction that shares nothing with it, with room behind its list.
 func Deep(x api.Insn) api.Insn {
-	if x.L != nil {
-		x.L = append(make([]int, 0, len(x.L)+4), x.L...)
-	}
+	x.L = lists.Roomy(x.L)
 	return x
 }
 

@@ -6,6 +6,7 @@ import (
 
 	"colloquy/api"
 	"colloquy/codes"
+	"colloquy/lists"
 	"colloquy/tables"
 )
 
@@ -20,45 +21,45 @@ func Least() api.Module {
 
 // Roomy is a copy of a module that shares nothing with it, with room behind each of its lists that is not nil.
 func Roomy(m api.Module) api.Module {
-	m.Nodes, m.Templates, m.Chans, m.Starts = withRoom(m.Nodes), withRoom(m.Templates), withRoom(m.Chans), withRoom(m.Starts)
-	m.NodeAt, m.TemplateAt, m.ChanAt, m.StartAt = withRoom(m.NodeAt), withRoom(m.TemplateAt), withRoom(m.ChanAt), withRoom(m.StartAt)
+	m.Nodes, m.Templates, m.Chans, m.Starts = lists.Roomy(m.Nodes), lists.Roomy(m.Templates), lists.Roomy(m.Chans), lists.Roomy(m.Starts)
+	m.NodeAt, m.TemplateAt, m.ChanAt, m.StartAt = lists.Roomy(m.NodeAt), lists.Roomy(m.TemplateAt), lists.Roomy(m.ChanAt), lists.Roomy(m.StartAt)
 	for i, n := range m.Nodes {
-		m.Nodes[i].Next = withRoom(n.Next)
+		m.Nodes[i].Next = lists.Roomy(n.Next)
 	}
 	for i, one := range m.Templates {
-		one.Params, one.Code, one.At = withRoom(one.Params), withRoom(one.Code), withRoom(one.At)
+		one.Params, one.Code, one.At = lists.Roomy(one.Params), lists.Roomy(one.Code), lists.Roomy(one.At)
 		for j, x := range one.Code {
 			one.Code[j] = codes.Deep(x)
 		}
 		m.Templates[i] = one
 	}
 	for i, s := range m.Starts {
-		m.Starts[i].Args = withRoom(s.Args)
+		m.Starts[i].Args = lists.Roomy(s.Args)
 	}
 	return m
 }
 
 // IsRoomEmpty tells whether nothing was laid in the room behind a module's lists.
 func IsRoomEmpty(m api.Module) bool {
-	if !tables.IsRoomEmpty(m.Nodes) || !isEmptyBehind(m.Templates, sameTemplate) || !isEmptyBehind(m.Starts, sameStart) || !isZeroBehind(m.Chans) {
+	if !tables.IsRoomEmpty(m.Nodes) || !lists.IsRoomEmpty(m.Templates, sameTemplate) || !lists.IsRoomEmpty(m.Starts, sameStart) || !lists.IsRoomZero(m.Chans) {
 		return false
 	}
 	for _, one := range m.Templates {
-		if !isZeroBehind(one.Params) || !isEmptyBehind(one.Code, codes.Same) || !isZeroBehind(one.At) {
+		if !lists.IsRoomZero(one.Params) || !lists.IsRoomEmpty(one.Code, codes.Same) || !lists.IsRoomZero(one.At) {
 			return false
 		}
 		for _, x := range one.Code {
-			if !isZeroBehind(x.L) {
+			if !lists.IsRoomZero(x.L) {
 				return false
 			}
 		}
 	}
 	for _, s := range m.Starts {
-		if !isZeroBehind(s.Args) {
+		if !lists.IsRoomZero(s.Args) {
 			return false
 		}
 	}
-	return isZeroBehind(m.NodeAt) && isZeroBehind(m.TemplateAt) && isZeroBehind(m.ChanAt) && isZeroBehind(m.StartAt)
+	return lists.IsRoomZero(m.NodeAt) && lists.IsRoomZero(m.TemplateAt) && lists.IsRoomZero(m.ChanAt) && lists.IsRoomZero(m.StartAt)
 }
 
 // Same tells whether two modules are the same, also in where their things stand; lists that are nil are like those without elements.
@@ -76,27 +77,3 @@ func sameTemplate(a, b api.Template) bool {
 
 // sameStart tells whether two starts are the same.
 func sameStart(a, b api.Start) bool { return a.Template == b.Template && slices.Equal(a.Args, b.Args) }
-
-// withRoom is a copy of a list, with room behind it.
-func withRoom[T any](l []T) []T {
-	if l == nil {
-		return nil
-	}
-	return append(make([]T, 0, len(l)+3), l...)
-}
-
-// isZeroBehind tells whether nothing was laid in the room behind a list.
-func isZeroBehind[T comparable](l []T) bool {
-	return isEmptyBehind(l, func(a, b T) bool { return a == b })
-}
-
-// isEmptyBehind tells whether what lies in the room behind a list is the same as nothing.
-func isEmptyBehind[T any](l []T, same func(a, b T) bool) bool {
-	var nothing T
-	for _, one := range l[len(l):cap(l)] {
-		if !same(one, nothing) {
-			return false
-		}
-	}
-	return true
-}
