@@ -48,6 +48,32 @@ func Mixed(r *tables.Row) api.Insn {
 	return x
 }
 
+// Wild is an instruction in which any one number may be another, and the list a longer one or a shorter one; the other numbers are such as may be.
+func Wild(r *tables.Row) api.Insn {
+	x := Mixed(r)
+	switch r.Below(8) {
+	case 0:
+		x.Op = tables.Any(r)
+	case 1:
+		x.A = int64(tables.Any(r))
+	case 2:
+		x.B = tables.Any(r)
+	case 3:
+		x.C = tables.Any(r)
+	case 4:
+		x.D = tables.Any(r)
+	case 5:
+		x.L = append(x.L, tables.Any(r))
+	case 6:
+		x.L = x.L[:r.Below(len(x.L)+1)]
+	case 7:
+		if len(x.L) > 0 {
+			x.L[r.Below(len(x.L))] = tables.Any(r)
+		}
+	}
+	return x
+}
+
 // Whole is a whole number, as often one with few digits as one with many.
 func Whole(r *tables.Row) int64 {
 	return int64(uint64(r.Below(1<<31))<<33|uint64(r.Below(1<<31))) >> r.Below(64)

@@ -69,6 +69,27 @@ func TestMixedInstructionsMayBe(t *testing.T) {
 	}
 }
 
+func TestWildInstructionsAreOfAnySort(t *testing.T) {
+	r := tables.Row(1)
+	may, mayNot := [api.LastOp + 1]int{}, [api.LastOp + 1]int{}
+	noOps, long := 0, [10]int{}
+	for range 10000 {
+		x := codes.Wild(&r)
+		long[len(x.L)]++
+		switch insn.Check(x) {
+		case api.OK:
+			may[x.Op]++
+		case api.ErrOp:
+			noOps++
+		default:
+			mayNot[x.Op]++
+		}
+	}
+	if slices.Min(may[:]) < 20 || slices.Min(mayNot[:]) < 20 || noOps < 100 || slices.Min(long[:]) < 5 {
+		t.Errorf("by their ops: %v may be, %v may not; %d are of no op; by how long their lists are: %v", may, mayNot, noOps, long)
+	}
+}
+
 func TestWholeNumbersAreOfAllLengths(t *testing.T) {
 	r := tables.Row(1)
 	short, long, below := 0, 0, 0

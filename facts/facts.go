@@ -9,6 +9,19 @@ import (
 	"colloquy/tables"
 )
 
+// Word is what is known of a register with a word.
+func Word() api.Slot { return api.Slot{Kind: api.Word} }
+
+// Holds is a Chan of a class and a priority.
+func Holds(class, prio int) api.Slot { return api.Slot{Kind: api.Chan, Class: class, Prio: prio} }
+
+// Knows is a state of a Level, a Depth, and what is in the first registers.
+func Knows(level, depth int, slots ...api.Slot) api.State {
+	s := api.State{Level: level, Depth: depth}
+	copy(s.Regs[:], slots)
+	return s
+}
+
 // Roomy is a copy of facts that shares nothing with them, with room behind each of their lists that is not nil.
 func Roomy(f api.Facts) api.Facts {
 	f.Table, f.Params = RoomyTable(f.Table), lists.Roomy(f.Params)
@@ -64,19 +77,19 @@ func sameClass(a, b api.Class) bool {
 // Wild are facts that no layer makes: whatever stands in them, though most numbers are small.
 func Wild(r *tables.Row) api.Facts {
 	var f api.Facts
-	link := func() api.Link { return api.Link{Class: number(r), Jump: number(r)} }
+	link := func() api.Link { return api.Link{Class: tables.Any(r), Jump: tables.Any(r)} }
 	for range r.Below(6) {
-		c := api.Class{Kind: number(r), Dual: number(r), IsChan: r.Below(2) == 0, Pay: link()}
+		c := api.Class{Kind: tables.Any(r), Dual: tables.Any(r), IsChan: r.Below(2) == 0, Pay: link()}
 		for range r.Below(4) {
 			c.Next = append(c.Next, link())
 		}
 		f.Table.Classes = append(f.Table.Classes, c)
 	}
 	for range r.Below(8) {
-		f.Table.Of = append(f.Table.Of, number(r))
+		f.Table.Of = append(f.Table.Of, tables.Any(r))
 	}
 	for range r.Below(8) {
-		f.Table.Prio = append(f.Table.Prio, number(r))
+		f.Table.Prio = append(f.Table.Prio, tables.Any(r))
 	}
 	for range r.Below(4) {
 		var slots []api.Slot
@@ -90,7 +103,7 @@ func Wild(r *tables.Row) api.Facts {
 
 // WildState is a state in which whatever stands, though most numbers are small.
 func WildState(r *tables.Row) api.State {
-	s := api.State{Level: number(r), Depth: number(r)}
+	s := api.State{Level: tables.Any(r), Depth: tables.Any(r)}
 	for i := range s.Regs {
 		if r.Below(3) > 0 {
 			s.Regs[i] = WildSlot(r)
@@ -101,9 +114,9 @@ func WildState(r *tables.Row) api.State {
 
 // WildSlot is a slot in which whatever stands, though it is most often a Chan.
 func WildSlot(r *tables.Row) api.Slot {
-	x := api.Slot{Kind: api.Chan, Class: number(r), Prio: number(r)}
+	x := api.Slot{Kind: api.Chan, Class: tables.Any(r), Prio: tables.Any(r)}
 	if r.Below(4) == 0 {
-		x.Kind = number(r)
+		x.Kind = tables.Any(r)
 	}
 	return x
 }
@@ -134,13 +147,4 @@ func Slot(r *tables.Row, f api.Facts, low int) api.Slot {
 		x.Prio = low + r.Below(8)
 	}
 	return x
-}
-
-// number is most often a small one.
-func number(r *tables.Row) int {
-	if r.Below(12) > 0 {
-		return r.Below(9) - 1
-	}
-	odd := tables.OddNumbers()
-	return odd[r.Below(len(odd))]
 }

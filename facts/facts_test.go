@@ -133,6 +133,23 @@ func TestRoomBehindFacts(t *testing.T) {
 	}
 }
 
+func TestSlotsAndStatesByHand(t *testing.T) {
+	if x := facts.Word(); x != (api.Slot{Kind: api.Word}) {
+		t.Errorf("a word is %v", x)
+	}
+	if x := facts.Holds(3, 4); x != (api.Slot{Kind: api.Chan, Class: 3, Prio: 4}) {
+		t.Errorf("a Chan is %v", x)
+	}
+	s := facts.Knows(5, 6, facts.Word(), api.Slot{}, facts.Holds(3, 4))
+	want := api.State{Level: 5, Depth: 6, Regs: [api.MaxRegs]api.Slot{0: {Kind: api.Word}, 2: {Kind: api.Chan, Class: 3, Prio: 4}}}
+	if s != want {
+		t.Errorf("a state is %v", s)
+	}
+	if s := facts.Knows(0, 0, slices.Repeat([]api.Slot{facts.Word()}, 20)...); s.Regs[15] != facts.Word() {
+		t.Errorf("a state of too many slots is %v", s)
+	}
+}
+
 func TestWildFactsAreOfAnySort(t *testing.T) {
 	r := tables.Row(1)
 	kinds, beyond, long, odd := map[int]int{}, 0, 0, 0

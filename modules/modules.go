@@ -19,6 +19,28 @@ func Least() api.Module {
 	}
 }
 
+// Asks is a parameter that is an endpoint of a node's type, at an Offset.
+func Asks(node, offset int) api.Param {
+	return api.Param{IsChan: true, Type: api.Type{Node: node, Offset: offset}}
+}
+
+// Asking is a module of mixed nodes, and of templates of mixed parameters and without codes; all is well with both.
+func Asking(r *tables.Row) api.Module {
+	m := api.Module{Nodes: tables.Mixed(r, 1+r.Below(8), 8, 8)}
+	for range r.Below(4) {
+		var params []api.Param
+		for range r.Below(api.MaxParams + 1) {
+			p := Asks(r.Below(len(m.Nodes)), r.Below(30))
+			if r.Below(3) == 0 {
+				p = api.Param{} // a word
+			}
+			params = append(params, p)
+		}
+		m.Templates = append(m.Templates, api.Template{Params: params})
+	}
+	return m
+}
+
 // Roomy is a copy of a module that shares nothing with it, with room behind each of its lists that is not nil.
 func Roomy(m api.Module) api.Module {
 	m.Nodes, m.Templates, m.Chans, m.Starts = lists.Roomy(m.Nodes), lists.Roomy(m.Templates), lists.Roomy(m.Chans), lists.Roomy(m.Starts)

@@ -2,11 +2,13 @@ package modules_test
 
 import (
 	"reflect"
+	"slices"
 	"testing"
 
 	"colloquy/api"
 	"colloquy/module"
 	"colloquy/modules"
+	"colloquy/order"
 	"colloquy/tables"
 )
 
@@ -72,6 +74,36 @@ func TestTheLeastModule(t *testing.T) {
 	s, e := module.Put(modules.Least())
 	if want := "CLQY\x01" + "\x01\x02\x01\x00" + "\x02\x04\x01\x00\x01\x18" + "\x03\x04\x00\x01\x00\x00"; s != want || e != api.OK {
 		t.Errorf("the bytes of the least module are % x, %d", s, e)
+	}
+}
+
+func TestModulesThatAsk(t *testing.T) {
+	if p := modules.Asks(3, 4); p != (api.Param{IsChan: true, Type: api.Type{Node: 3, Offset: 4}}) {
+		t.Errorf("a parameter that is an endpoint is %v", p)
+	}
+	r := tables.Row(1)
+	long, words, ends := [api.MaxParams + 1]int{}, 0, 0
+	for range 1000 {
+		m := modules.Asking(&r)
+		if _, e := order.Check(m.Nodes); e != api.OK {
+			t.Fatalf("the nodes %v: %d", m.Nodes, e)
+		}
+		for _, one := range m.Templates {
+			long[len(one.Params)]++
+			for _, p := range one.Params {
+				switch {
+				case p == api.Param{}:
+					words++
+				case !p.IsChan || p.Type.Node < 0 || p.Type.Node >= len(m.Nodes) || p.Type.Offset < 0:
+					t.Errorf("of %d nodes a parameter is %v", len(m.Nodes), p)
+				default:
+					ends++
+				}
+			}
+		}
+	}
+	if slices.Min(long[:]) < 50 || words < 1000 || ends < 1000 {
+		t.Errorf("by how many parameters they have: %v; words: %d, endpoints: %d", long, words, ends)
 	}
 }
 

@@ -7,6 +7,7 @@ import (
 	"colloquy/api"
 	"colloquy/class"
 	"colloquy/facts"
+	"colloquy/modules"
 	"colloquy/state"
 	"colloquy/tables"
 )
@@ -129,23 +130,6 @@ func wantAsTold(t *testing.T, f api.Facts, a, b api.State) (by int, isFurther bo
 	return by, isFurther
 }
 
-// mixedModule is a module of mixed nodes, and of templates of mixed parameters, with all of which all is well.
-func mixedModule(r *tables.Row) api.Module {
-	m := api.Module{Nodes: tables.Mixed(r, 1+r.Below(8), 8, 8)}
-	for range r.Below(4) {
-		var params []api.Param
-		for range r.Below(9) {
-			if p := asks(r.Below(len(m.Nodes)), r.Below(30)); r.Below(3) > 0 {
-				params = append(params, p)
-			} else {
-				params = append(params, theWord)
-			}
-		}
-		m.Templates = append(m.Templates, api.Template{Params: params})
-	}
-	return m
-}
-
 // spoil makes something of a module another thing.
 func spoil(r *tables.Row, m *api.Module) {
 	n := len(m.Nodes)
@@ -168,7 +152,7 @@ func TestMixedModules(t *testing.T) {
 	row, met := tables.Row(131), map[api.Errno]int{}
 	busy, idle := 0, 0
 	for range 6000 {
-		m := mixedModule(&row)
+		m := modules.Asking(&row)
 		if row.Below(3) == 0 {
 			spoil(&row, &m)
 		}
@@ -206,7 +190,7 @@ func TestMixedModules(t *testing.T) {
 func TestEntriesOfHigherParams(t *testing.T) {
 	row, met := tables.Row(132), [2]int{}
 	for range 2000 {
-		m := mixedModule(&row)
+		m := modules.Asking(&row)
 		f, e := state.Facts(m)
 		if e != api.OK {
 			t.Fatalf("%v: %d", m, e)
@@ -262,7 +246,7 @@ func TestMixedStates(t *testing.T) {
 	row := tables.Row(133)
 	var same, further, below, others int
 	for range 6000 {
-		f, e := state.Facts(mixedModule(&row))
+		f, e := state.Facts(modules.Asking(&row))
 		if e != api.OK {
 			t.Fatal(e)
 		}
@@ -347,7 +331,7 @@ func TestWhatIsRaisedStays(t *testing.T) {
 func TestFurtherAndRaised(t *testing.T) {
 	row, met := tables.Row(136), [2]int{}
 	for range 6000 {
-		f, e := state.Facts(mixedModule(&row))
+		f, e := state.Facts(modules.Asking(&row))
 		if e != api.OK {
 			t.Fatal(e)
 		}

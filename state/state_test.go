@@ -14,29 +14,14 @@ import (
 	"colloquy/tables"
 )
 
-// How tables of types are laid.
+// How tables of types, slots, states and parameters are laid.
 var (
 	far, of, ofEnd, alias = tables.Far, tables.Of, tables.OfEnd, tables.Alias
 	oddNumbers            = tables.OddNumbers
+	none, word            = api.Slot{}, facts.Word()
+	holds, knows          = facts.Holds, facts.Knows
+	asks                  = modules.Asks
 )
-
-// none and word are what is known of a register without anything, and of one with a word.
-var none, word = api.Slot{}, api.Slot{Kind: api.Word}
-
-// holds is a Chan of a class and a priority.
-func holds(class, prio int) api.Slot { return api.Slot{Kind: api.Chan, Class: class, Prio: prio} }
-
-// knows is a state of a Level, a Depth, and what is in the first registers.
-func knows(level, depth int, slots ...api.Slot) api.State {
-	s := api.State{Level: level, Depth: depth}
-	copy(s.Regs[:], slots)
-	return s
-}
-
-// asks is a parameter that is an endpoint of a node's type, at an Offset.
-func asks(node, offset int) api.Param {
-	return api.Param{IsChan: true, Type: api.Type{Node: node, Offset: offset}}
-}
 
 // theWord is a parameter that is a word.
 var theWord api.Param

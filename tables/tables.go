@@ -101,6 +101,15 @@ func (r *Row) Below(n int) int {
 	return int(uint64(*r) >> 33 % uint64(n))
 }
 
+// Any is any number, most often a small one.
+func Any(r *Row) int {
+	if r.Below(12) > 0 {
+		return r.Below(9) - 1
+	}
+	odd := OddNumbers()
+	return odd[r.Below(len(odd))]
+}
+
 // Mixed is a table of n nodes of all kinds, whose shifts are from least on, and whose priorities are below prios. Aliases go to the nodes ahead of them.
 func Mixed(r *Row, n, prios, least int) []api.Node {
 	l := make([]api.Node, n)

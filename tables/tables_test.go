@@ -132,6 +132,26 @@ func TestARowIsAlwaysTheSame(t *testing.T) {
 	}
 }
 
+func TestAnyNumberIsMostOftenSmall(t *testing.T) {
+	r := tables.Row(1)
+	small, odd := [9]int{}, map[int]int{}
+	for range 5000 {
+		if n := tables.Any(&r); n >= -1 && n <= 7 {
+			small[n+1]++
+		} else {
+			odd[n]++
+		}
+	}
+	if slices.Min(small[:]) < 300 || len(odd) < len(tables.OddNumbers())-1 {
+		t.Errorf("small ones: %v, others: %v", small, odd)
+	}
+	for n := range odd {
+		if !slices.Contains(tables.OddNumbers(), n) {
+			t.Errorf("%d is neither small nor odd", n)
+		}
+	}
+}
+
 func TestMixedTablesAreOfAllKinds(t *testing.T) {
 	r := tables.Row(1)
 	kinds := [api.LastKind + 1]int{}
